@@ -178,4 +178,7 @@ func TestRunOfLargeTexts(t *testing.T) {
 	checkRun(t, []int{api.TLower}, most, strings.ToLower(most))
 	checkRun(t, []int{api.TSqueeze}, strings.Repeat(" ", 8192), " ")
 	checkRun(t, []int{api.TPath}, strings.Repeat("../", 2730)+"xx", strings.Repeat("../", 2730)+"xx")
+	// A path may become longer: the bound is that of what is handed in alone.
+	checkRun(t, []int{api.TPath}, strings.Repeat("../", 2730)+"..", strings.Repeat("../", 2731))
+	checkRun(t, []int{api.TPath, api.TPath, api.TLength}, strings.Repeat("../", 2730)+"..", "8193")
 }
